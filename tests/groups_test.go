@@ -60,22 +60,6 @@ func cycling(n int, cycles ...[]int) []int {
 	return p
 }
 
-// onPairs returns how p carries the ten pairs of five points.
-func onPairs(p []int) []int {
-	var pairs [][2]int
-	for a := range 5 {
-		for b := a + 1; b < 5; b++ {
-			pairs = append(pairs, [2]int{a, b})
-		}
-	}
-	var carried []int
-	for _, x := range pairs {
-		to := [2]int{min(p[x[0]], p[x[1]]), max(p[x[0]], p[x[1]])}
-		carried = append(carried, slices.Index(pairs, to))
-	}
-	return carried
-}
-
 type groupCase struct {
 	label      string
 	degree     int
@@ -105,7 +89,7 @@ func groupCases() []groupCase {
 		{"five swaps", 10, [][]int{cycling(10, []int{0, 1}), cycling(10, []int{2, 3}), cycling(10, []int{4, 5}), cycling(10, []int{6, 7}), cycling(10, []int{8, 9})},
 			32, 32, [][]int{{0, 1}, {2, 3}, {4, 5}, {6, 7}, {8, 9}}},
 		{"all of five", 5, [][]int{five, {1, 0, 2, 3, 4}}, 120, 7, [][]int{upTo(5)}},
-		{"all of five, on pairs", 10, [][]int{onPairs(five), onPairs([]int{1, 0, 2, 3, 4})}, 120, 7, [][]int{upTo(10)}},
+		{"all of five, on pairs", 10, [][]int{onSubsets(five, 2), onSubsets([]int{1, 0, 2, 3, 4}, 2)}, 120, 7, [][]int{upTo(10)}},
 		{"all of five, on the last points of ten", 10, [][]int{cycling(10, []int{5, 6, 7, 8, 9}), cycling(10, []int{5, 6})}, 120, 7,
 			[][]int{{0}, {1}, {2}, {3}, {4}, {5, 6, 7, 8, 9}}},
 		{"the line modulo five with its far point", 6, [][]int{cycling(6, upTo(5)), cycling(6, []int{1, 2, 4, 3}), cycling(6, []int{0, 5}, []int{1, 4})}, 120, 7, [][]int{upTo(6)}},
