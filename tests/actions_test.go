@@ -655,29 +655,33 @@ func actionResults(g [][]int, list []int) [][][]int {
 	return all
 }
 
-// TestActionResultsAreNew overwrites each list of each result, in both orders,
-// and then each result itself: neither an argument, nor another list of the
-// result, nor another result, nor a later one may show it.
+// checkResultsAreNew overwrites each list of each result for g and a coloring,
+// in both orders, and then each result itself: neither an argument, nor another
+// list of the result, nor another result, nor a later one may show it.
+func checkResultsAreNew(t *testing.T, g [][]int, list []int, resultsOf func(g [][]int, list []int) [][][]int) {
+	t.Helper()
+	argument, coloring := cloneLists(g), slices.Clone(list)
+	results := resultsOf(argument, coloring)
+	want := resultsOf(cloneLists(g), slices.Clone(list))
+	all := slices.Concat(results...)
+	forward := overwrite(all)
+	slices.Reverse(all)
+	if !forward || !overwrite(all) {
+		t.Fatalf("two lists of the results for %v and %v share memory", g, list)
+	}
+	for _, lists := range results {
+		clear(lists[:cap(lists)])
+	}
+	if !equalLists(argument, g) || !slices.Equal(coloring, list) {
+		t.Fatalf("a result for %v and %v shares memory with it", g, list)
+	}
+	if !slices.EqualFunc(resultsOf(argument, coloring), want, equalLists) {
+		t.Fatalf("the results for %v and %v are others after the first ones were changed", g, list)
+	}
+}
+
 func TestActionResultsAreNew(t *testing.T) {
 	for _, g := range someGroups(t) {
-		list := oneColorEach(g[len(g)-1])
-		argument, coloring := cloneLists(g), slices.Clone(list)
-		results := actionResults(argument, coloring)
-		want := actionResults(cloneLists(g), slices.Clone(list))
-		all := slices.Concat(results...)
-		forward := overwrite(all)
-		slices.Reverse(all)
-		if !forward || !overwrite(all) {
-			t.Fatalf("two lists of the results for %v and %v share memory", g, list)
-		}
-		for _, lists := range results {
-			clear(lists[:cap(lists)])
-		}
-		if !equalLists(argument, g) || !slices.Equal(coloring, list) {
-			t.Fatalf("a result for %v and %v shares memory with it", g, list)
-		}
-		if !slices.EqualFunc(actionResults(argument, coloring), want, equalLists) {
-			t.Fatalf("the results for %v and %v are others after the first ones were changed", g, list)
-		}
+		checkResultsAreNew(t, g, oneColorEach(g[len(g)-1]), actionResults)
 	}
 }

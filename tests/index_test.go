@@ -115,15 +115,24 @@ func indexByDefinition(g [][]int) ([][]int, []int) {
 	return different, counts
 }
 
-// patterns counts the colorings with k colors up to g by their contents: it
-// takes each one that no element of g carries to a lesser one.
-func patterns(g [][]int, k int) map[string]int {
-	counts := map[string]int{}
+// leastColorings returns, in lexicographic order, the colorings with k colors
+// that no element of g carries to a lesser one, found without impl.
+func leastColorings(g [][]int, k int) [][]int {
+	var least [][]int
 	for _, list := range allLists(upTo(k), len(g[0])) {
 		lesser := func(p []int) bool { return slices.Compare(carried(p, list), list) < 0 }
 		if !slices.ContainsFunc(g, lesser) {
-			counts[keyOf(contentsOf(list, k))]++
+			least = append(least, list)
 		}
+	}
+	return least
+}
+
+// patterns counts the colorings with k colors up to g by their contents.
+func patterns(g [][]int, k int) map[string]int {
+	counts := map[string]int{}
+	for _, list := range leastColorings(g, k) {
+		counts[keyOf(contentsOf(list, k))]++
 	}
 	return counts
 }
