@@ -256,25 +256,15 @@ func TestMobiusOfAll(t *testing.T) {
 }
 
 func TestCountLyndon(t *testing.T) {
-	counts := map[int][]int{
+	checkCounts(t, "CountLyndon", impl.CountLyndon, map[int][]int{
 		1: {1, 0, 0, 0, 0, 0, 0, 0, 0, 0},
 		2: {2, 1, 2, 3, 6, 9, 18, 30, 56, 99},
 		3: {3, 3, 8, 18, 48, 116, 312, 810, 2184, 5880},
 		4: {4, 6, 20, 60, 204, 670, 2340, 8160, 29120, 104754},
-	}
+	})
 	lengthsAndColors(func(n int, k int) {
-		got := impl.CountLyndon(n, k)
-		if want := counts[k][n-1]; got != want {
-			t.Errorf("CountLyndon(%d, %d) = %d, want %d", n, k, got, want)
-		}
-		reported := 0
-		eachWord(n, k, func(word []int) {
-			if impl.IsLyndon(word) {
-				reported++
-			}
-		})
-		if got != reported {
-			t.Errorf("CountLyndon(%d, %d) = %d, but IsLyndon reports %d words", n, k, got, reported)
+		if got, want := impl.CountLyndon(n, k), reported(n, k, impl.IsLyndon); got != want {
+			t.Errorf("CountLyndon(%d, %d) = %d, but IsLyndon reports %d words", n, k, got, want)
 		}
 	})
 }
@@ -633,24 +623,27 @@ func TestLyndonResultsAreNew(t *testing.T) {
 	}
 }
 
-// TestLyndonResultsAreAlwaysEqual calls the functions for different words in
-// between, as no call may show in a later one.
 func TestLyndonResultsAreAlwaysEqual(t *testing.T) {
 	words := slices.Concat(someColorings(3), someColorings(6), someColorings(10))
-	results := func() string {
-		var all []any
-		for _, word := range words {
-			all = append(all, lyndonResults(nil, word), impl.IsLyndon(word), impl.PlaceOf(words[0], word), impl.CountLyndon(len(word), 3))
-		}
-		return fmt.Sprint(all...)
-	}
-	if first := results(); first != results() {
-		t.Error("the results of the same calls are different")
-	}
+	checkAlwaysEqual(t, words, func(word []int) []any {
+		return []any{lyndonResults(nil, word), impl.IsLyndon(word), impl.PlaceOf(words[0], word), impl.CountLyndon(len(word), 3)}
+	})
 }
 
-// TestLyndonSendersEnd waits for a while, as a sender that has closed its channel
-// may be counted for a moment after the call.
+// checkGoroutinesEnd holds that no more goroutines are left than there were before.
+// It waits for a while, as one that has done its work may be counted for a moment
+// after the call.
+func checkGoroutinesEnd(t *testing.T, before int) {
+	t.Helper()
+	for range 500 {
+		if runtime.NumGoroutine() <= before {
+			return
+		}
+		time.Sleep(10 * time.Millisecond)
+	}
+	t.Errorf("%d goroutines are left, before there were %d", runtime.NumGoroutine(), before)
+}
+
 func TestLyndonSendersEnd(t *testing.T) {
 	before := runtime.NumGoroutine()
 	for n := range 12 {
@@ -660,11 +653,5 @@ func TestLyndonSendersEnd(t *testing.T) {
 			impl.LyndonFactors(slices.Repeat([]int{k - 1}, n))
 		}
 	}
-	for range 500 {
-		if runtime.NumGoroutine() <= before {
-			return
-		}
-		time.Sleep(10 * time.Millisecond)
-	}
-	t.Errorf("%d goroutines are left, before there were %d", runtime.NumGoroutine(), before)
+	checkGoroutinesEnd(t, before)
 }

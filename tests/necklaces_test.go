@@ -351,29 +351,42 @@ func TestTotientOfAll(t *testing.T) {
 	}
 }
 
+// checkCounts holds that count gives the numbers of a table, which has for each
+// number of colors those for the lengths from 1 to 10.
+func checkCounts(t *testing.T, label string, count func(n int, k int) int, table map[int][]int) {
+	t.Helper()
+	lengthsAndColors(func(n int, k int) {
+		if got, want := count(n, k), table[k][n-1]; got != want {
+			t.Errorf("%s(%d, %d) = %d, want %d", label, n, k, got, want)
+		}
+	})
+}
+
+// reported returns how many words of n letters of k colors is reports.
+func reported(n int, k int, is func(word []int) bool) int {
+	count := 0
+	eachWord(n, k, func(word []int) {
+		if is(word) {
+			count++
+		}
+	})
+	return count
+}
+
 func TestCountNecklaces(t *testing.T) {
-	counts := map[int][]int{
+	checkCounts(t, "CountNecklaces", impl.CountNecklaces, map[int][]int{
 		1: {1, 1, 1, 1, 1, 1, 1, 1, 1, 1},
 		2: {2, 3, 4, 6, 8, 14, 20, 36, 60, 108},
 		3: {3, 6, 11, 24, 51, 130, 315, 834, 2195, 5934},
 		4: {4, 10, 24, 70, 208, 700, 2344, 8230, 29144, 104968},
-	}
+	})
 	lengthsAndColors(func(n int, k int) {
 		got := impl.CountNecklaces(n, k)
-		if want := counts[k][n-1]; got != want {
-			t.Errorf("CountNecklaces(%d, %d) = %d, want %d", n, k, got, want)
-		}
 		if want := impl.CountColorings(turnsOf(t, n), k); got != want {
 			t.Errorf("CountNecklaces(%d, %d) = %d, but up to rotations there are %d colorings", n, k, got, want)
 		}
-		necklaces := 0
-		eachWord(n, k, func(word []int) {
-			if impl.IsNecklace(word) {
-				necklaces++
-			}
-		})
-		if got != necklaces {
-			t.Errorf("CountNecklaces(%d, %d) = %d, but IsNecklace reports %d words", n, k, got, necklaces)
+		if want := reported(n, k, impl.IsNecklace); got != want {
+			t.Errorf("CountNecklaces(%d, %d) = %d, but IsNecklace reports %d words", n, k, got, want)
 		}
 	})
 }
@@ -691,18 +704,25 @@ func TestNecklaceResultsAreNew(t *testing.T) {
 	}
 }
 
-// TestNecklaceResultsAreAlwaysEqual calls the functions for different words in
-// between, as no call may show in a later one.
-func TestNecklaceResultsAreAlwaysEqual(t *testing.T) {
-	words := slices.Concat(someColorings(4), someColorings(7), someColorings(10))
+// checkAlwaysEqual calls for the results of different words in between, as no call
+// may show in a later one.
+func checkAlwaysEqual(t *testing.T, words [][]int, resultsOf func(word []int) []any) {
+	t.Helper()
 	results := func() string {
 		var all []any
 		for _, word := range words {
-			all = append(all, necklaceResults(nil, word), impl.NecklaceNumber(word, 3), impl.PeriodOf(word), impl.IsNecklace(word))
+			all = append(all, resultsOf(word)...)
 		}
 		return fmt.Sprint(all...)
 	}
 	if first := results(); first != results() {
 		t.Error("the results of the same calls are different")
 	}
+}
+
+func TestNecklaceResultsAreAlwaysEqual(t *testing.T) {
+	words := slices.Concat(someColorings(4), someColorings(7), someColorings(10))
+	checkAlwaysEqual(t, words, func(word []int) []any {
+		return []any{necklaceResults(nil, word), impl.NecklaceNumber(word, 3), impl.PeriodOf(word), impl.IsNecklace(word)}
+	})
 }
